@@ -1,0 +1,42 @@
+package tests
+
+import (
+	"slices"
+	"testing"
+
+	"loop.example/tonesincircles/impl"
+)
+
+// spoil overwrites a list and what may be behind it.
+func spoil(list []int) {
+	list = list[:cap(list)]
+	for i := range list {
+		list[i] = -7
+	}
+}
+
+func TestResultsOfSetsAreNew(t *testing.T) {
+	for name, call := range map[string]func() []int{
+		"TonesOf":  func() []int { return impl.TonesOf(12, 2741) },
+		"GapsOf":   func() []int { return impl.GapsOf(12, 2741) },
+		"PrimesOf": func() []int { return impl.PrimesOf(12, 4) },
+	} {
+		first := call()
+		want := slices.Clone(first)
+		spoil(first)
+		same(t, name+" again", call(), want)
+	}
+}
+
+func TestPairsOfTwinsShareNoMemory(t *testing.T) {
+	want := impl.TwinsOf(12, 6)
+	for i := range want {
+		got := impl.TwinsOf(12, 6)
+		spoil(got[i])
+		for j := range got {
+			if j != i {
+				same(t, "another pair", got[j], want[j])
+			}
+		}
+	}
+}
