@@ -63,26 +63,25 @@ func (s circleSet) list() []int {
 	return out
 }
 
-// shift returns the set with each tone t more.
-func (s circleSet) shift(t int) circleSet {
+// moved returns the set with the tone t plus way times x for each tone x.
+func (s circleSet) moved(way int, t int) circleSet {
 	out := circleSet{size: s.size}
 	for x := range s.size {
 		if s.has(x) {
-			out.tones |= 1 << roundCircle(s.size, x+t)
+			out.tones |= 1 << roundCircle(s.size, t+way*x)
 		}
 	}
 	return out
 }
 
+// shift returns the set with each tone t more.
+func (s circleSet) shift(t int) circleSet {
+	return s.moved(1, t)
+}
+
 // turn returns the set with t less x for each tone x.
 func (s circleSet) turn(t int) circleSet {
-	out := circleSet{size: s.size}
-	for x := range s.size {
-		if s.has(x) {
-			out.tones |= 1 << roundCircle(s.size, t-x)
-		}
-	}
-	return out
+	return s.moved(-1, t)
 }
 
 // others returns the set of the tones that are not in the set.
