@@ -63,12 +63,18 @@ func (s circleSet) list() []int {
 	return out
 }
 
+// with returns the set with one more tone, that at which x, below 0 or not, ends.
+func (s circleSet) with(x int) circleSet {
+	s.tones |= 1 << roundCircle(s.size, x)
+	return s
+}
+
 // moved returns the set with the tone t plus way times x for each tone x.
 func (s circleSet) moved(way int, t int) circleSet {
 	out := circleSet{size: s.size}
 	for x := range s.size {
 		if s.has(x) {
-			out.tones |= 1 << roundCircle(s.size, t+way*x)
+			out = out.with(t + way*x)
 		}
 	}
 	return out

@@ -15,11 +15,14 @@ func spoil(list []int) {
 	}
 }
 
-func TestResultsOfSetsAreNew(t *testing.T) {
+func TestListsAreNew(t *testing.T) {
 	for name, call := range map[string]func() []int{
 		"TonesOf":  func() []int { return impl.TonesOf(12, 2741) },
 		"GapsOf":   func() []int { return impl.GapsOf(12, 2741) },
 		"PrimesOf": func() []int { return impl.PrimesOf(12, 4) },
+		"SizesOf":  func() []int { return impl.SizesOf(12, 2741, 3) },
+		"RowsOf":   func() []int { return impl.RowsOf(12, 2741) },
+		"BeatsOf":  func() []int { return impl.BeatsOf(12, 7) },
 	} {
 		first := call()
 		want := slices.Clone(first)
