@@ -23,6 +23,8 @@ func TestListsAreNew(t *testing.T) {
 		"SizesOf":  func() []int { return impl.SizesOf(12, 2741, 3) },
 		"RowsOf":   func() []int { return impl.RowsOf(12, 2741) },
 		"BeatsOf":  func() []int { return impl.BeatsOf(12, 7) },
+		"RoundOf":  func() []int { return impl.RoundOf(5, "LR") },
+		"TriadsIn": func() []int { return impl.TriadsIn(2741) },
 	} {
 		first := call()
 		want := slices.Clone(first)
