@@ -42,6 +42,12 @@ func roundCircle(n int, x int) int {
 	return (x%n + n) % n
 }
 
+// apart returns how far two tones of a circle of n are apart, the shorter way round.
+func apart(n int, x int, y int) int {
+	up := roundCircle(n, y-x)
+	return min(up, n-up)
+}
+
 // has reports whether the tone x is in the set.
 func (s circleSet) has(x int) bool {
 	return s.tones>>x&1 == 1
@@ -66,6 +72,12 @@ func (s circleSet) list() []int {
 // with returns the set with one more tone, that at which x, below 0 or not, ends.
 func (s circleSet) with(x int) circleSet {
 	s.tones |= 1 << roundCircle(s.size, x)
+	return s
+}
+
+// without returns the set with one tone less, x.
+func (s circleSet) without(x int) circleSet {
+	s.tones &^= 1 << x
 	return s
 }
 
@@ -106,8 +118,7 @@ func (s circleSet) gaps() []int {
 	tones := s.list()
 	for i, high := range tones {
 		for _, low := range tones[:i] {
-			apart := high - low
-			out[min(apart, s.size-apart)-1]++
+			out[apart(s.size, low, high)-1]++
 		}
 	}
 	return out

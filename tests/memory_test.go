@@ -25,6 +25,12 @@ func TestListsAreNew(t *testing.T) {
 		"BeatsOf":  func() []int { return impl.BeatsOf(12, 7) },
 		"RoundOf":  func() []int { return impl.RoundOf(5, "LR") },
 		"TriadsIn": func() []int { return impl.TriadsIn(2741) },
+		"NearOf":   func() []int { return impl.NearOf(12, 2741) },
+		"PathTo":   func() []int { return impl.PathTo(12, 145, 548) },
+		"FarOf": func() []int {
+			_, goals := impl.FarOf(12, 145, 2180)
+			return goals
+		},
 	} {
 		first := call()
 		want := slices.Clone(first)
