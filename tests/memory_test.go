@@ -17,16 +17,19 @@ func spoil(list []int) {
 
 func TestListsAreNew(t *testing.T) {
 	for name, call := range map[string]func() []int{
-		"TonesOf":  func() []int { return impl.TonesOf(12, 2741) },
-		"GapsOf":   func() []int { return impl.GapsOf(12, 2741) },
-		"PrimesOf": func() []int { return impl.PrimesOf(12, 4) },
-		"SizesOf":  func() []int { return impl.SizesOf(12, 2741, 3) },
-		"RowsOf":   func() []int { return impl.RowsOf(12, 2741) },
-		"BeatsOf":  func() []int { return impl.BeatsOf(12, 7) },
-		"RoundOf":  func() []int { return impl.RoundOf(5, "LR") },
-		"TriadsIn": func() []int { return impl.TriadsIn(2741) },
-		"NearOf":   func() []int { return impl.NearOf(12, 2741) },
-		"PathTo":   func() []int { return impl.PathTo(12, 145, 548) },
+		"TonesOf":   func() []int { return impl.TonesOf(12, 2741) },
+		"GapsOf":    func() []int { return impl.GapsOf(12, 2741) },
+		"PrimesOf":  func() []int { return impl.PrimesOf(12, 4) },
+		"SizesOf":   func() []int { return impl.SizesOf(12, 2741, 3) },
+		"RowsOf":    func() []int { return impl.RowsOf(12, 2741) },
+		"BeatsOf":   func() []int { return impl.BeatsOf(12, 7) },
+		"RoundOf":   func() []int { return impl.RoundOf(5, "LR") },
+		"TriadsIn":  func() []int { return impl.TriadsIn(2741) },
+		"NearOf":    func() []int { return impl.NearOf(12, 2741) },
+		"PathTo":    func() []int { return impl.PathTo(12, 145, 548) },
+		"TilesOf":   func() []int { return impl.TilesOf(12, 65) },
+		"FactorsOf": func() []int { return impl.FactorsOf(12, 4095) },
+		"CanonOf":   func() []int { return impl.CanonOf(12, 2741, 145) },
 		"FarOf": func() []int {
 			_, goals := impl.FarOf(12, 145, 2180)
 			return goals
