@@ -30,6 +30,15 @@ func TestListsAreNew(t *testing.T) {
 		"TilesOf":   func() []int { return impl.TilesOf(12, 65) },
 		"FactorsOf": func() []int { return impl.FactorsOf(12, 4095) },
 		"CanonOf":   func() []int { return impl.CanonOf(12, 2741, 145) },
+		"BestTones": func() []int { return impl.BestTones(12) },
+		"PowersOf": func() []int {
+			e, _ := impl.PowersOf(81, 80)
+			return e
+		},
+		"IntoOctave": func() []int {
+			e, _ := impl.IntoOctave([]int{5, 2, 0})
+			return e
+		},
 		"FarOf": func() []int {
 			_, goals := impl.FarOf(12, 145, 2180)
 			return goals
@@ -42,15 +51,39 @@ func TestListsAreNew(t *testing.T) {
 	}
 }
 
-func TestPairsOfTwinsShareNoMemory(t *testing.T) {
-	want := impl.TwinsOf(12, 6)
+// shareNoMemory spoils each list of a result, and looks at the others and at the next result.
+func shareNoMemory(t *testing.T, what string, call func() [][]int) {
+	t.Helper()
+	want := call()
 	for i := range want {
-		got := impl.TwinsOf(12, 6)
+		got := call()
 		spoil(got[i])
 		for j := range got {
 			if j != i {
-				same(t, "another pair", got[j], want[j])
+				same(t, "another one of "+what, got[j], want[j])
 			}
 		}
+		same(t, what+" again", call()[i], want[i])
 	}
+}
+
+func TestListsOfListsShareNoMemory(t *testing.T) {
+	shareNoMemory(t, "TwinsOf", func() [][]int { return impl.TwinsOf(12, 6) })
+	shareNoMemory(t, "FifthsOf", func() [][]int { return impl.FifthsOf(12) })
+	shareNoMemory(t, "GapsBetween", func() [][]int { return impl.GapsBetween(6) })
+}
+
+// TestPowersAreLeft looks at powers that are within an octave, so that what is returned is
+// the same list, but a new one.
+func TestPowersAreLeft(t *testing.T) {
+	fifth := []int{-1, 1, 0}
+	impl.RatioOf(fifth)
+	impl.StepsBy(12, fifth)
+	octave, _ := impl.IntoOctave(fifth)
+	same(t, "powers that were given", fifth, []int{-1, 1, 0})
+	spoil(octave)
+	same(t, "powers that were given, when the result is spoilt", fifth, []int{-1, 1, 0})
+	high := []int{7, 1, 0}
+	impl.IntoOctave(high)
+	same(t, "powers of another octave", high, []int{7, 1, 0})
 }
